@@ -17,6 +17,9 @@ func Op(op api.Op) bool {
 	return ok && inBounds(op) && noOther(op, named)
 }
 
+// Name tells whether s names a thing, beside its type.
+func Name(s string) bool { return within(len(s), 1, api.MaxName) }
+
 // Update tells whether u is an update.
 func Update(u api.Update) bool {
 	return clock(u.Clock) && within(u.Origin, 0, len(u.Clock)-1) && u.Clock[u.Origin] > 0 && Op(u.Op)
@@ -38,7 +41,7 @@ func fieldsOf(typ, kind uint8) (fields, bool) {
 }
 
 func inBounds(op api.Op) bool {
-	return within(len(op.Name), 1, api.MaxName) &&
+	return Name(op.Name) &&
 		len(op.Text) <= api.MaxText &&
 		within(op.Amount, -api.MaxAmount, api.MaxAmount) &&
 		anchor(op.Anchor)

@@ -93,6 +93,14 @@ func TestOpAtBounds(t *testing.T) {
 	}
 }
 
+func TestName(t *testing.T) {
+	for _, name := range names {
+		if got := Name(name.value); got != name.ok {
+			t.Errorf("P4: Name(%q) = %t", name.value, got)
+		}
+	}
+}
+
 func TestUpdate(t *testing.T) {
 	for _, c := range []struct {
 		origin int

@@ -1,0 +1,31 @@
+package crdt
+
+import "braid/api"
+
+// added has the texts of those adds that no remove of the same text and no
+// clear is behind.
+func added(l []api.Update) []string {
+	removed, cleared := takenAway(l)
+	var texts []string
+	for _, u := range l {
+		if u.Op.Kind == api.Add && !cleared.has(u) && !removed[u.Op.Text].has(u) {
+			texts = append(texts, u.Op.Text)
+		}
+	}
+	return texts
+}
+
+// takenAway has what the removes of each text knew, and what the clears did.
+func takenAway(l []api.Update) (map[string]reach, reach) {
+	removed := map[string]reach{}
+	var cleared reach
+	for _, u := range l {
+		switch u.Op.Kind {
+		case api.Remove:
+			removed[u.Op.Text] = removed[u.Op.Text].with(u.Clock)
+		case api.Clear:
+			cleared = cleared.with(u.Clock)
+		}
+	}
+	return removed, cleared
+}
