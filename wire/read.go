@@ -46,7 +46,10 @@ func (r *reader) pair() int {
 
 // text is a copy: a piece of the bytes would keep all of them alive.
 func (r *reader) text() string {
-	n := min(r.single(), len(r.rest))
+	// The length is read by itself: in one expression with what is left, the
+	// language would not say which of the two comes first.
+	told := r.single()
+	n := min(told, len(r.rest))
 	s := strings.Clone(r.rest[:n])
 	r.rest = r.rest[n:]
 	return s

@@ -219,6 +219,46 @@ func TestDecodeOfNoUpdate(t *testing.T) {
 	}
 }
 
+// Bytes that end within a text, or right behind its length, with and without a sum.
+func TestDecodeOfTextsThatEnd(t *testing.T) {
+	for _, s := range []string{
+		"00 00 00 00 01",
+		"00 00 00 00 ff",
+		"00 00 00 00 05 6162",
+		"00 00 00 00 01 6e 01",
+		"00 00 00 00 01 6e 07 78797a",
+		"02 0001 0000 00 02 00 01",
+		"02 0001 0000 00 02 00 08 6e6e6e6e6e6e6e",
+		"02 0001 0000 00 01 00 01 6e 01",
+		"02 0001 0000 00 01 00 01 6e 14 7474",
+	} {
+		refused(t, string(unhex(t, s)))
+		refused(t, signed(unhex(t, s)))
+	}
+}
+
+func TestReaderAtTheEnd(t *testing.T) {
+	for _, c := range []struct{ s, text, rest string }{
+		{"", "", ""},
+		{"\x00", "", ""},
+		{"\x00ab", "", "ab"},
+		{"\x01", "", ""},
+		{"\xff", "", ""},
+		{"\x01a", "a", ""},
+		{"\x02a", "a", ""},
+		{"\x05ab", "ab", ""},
+		{"\x01ab", "a", "b"},
+	} {
+		r := reader{c.s}
+		if text := r.text(); text != c.text {
+			t.Errorf("P1: the text of %q is %q", c.s, text)
+		}
+		if r.rest != c.rest {
+			t.Errorf("P1: behind the text of %q is %q", c.s, r.rest)
+		}
+	}
+}
+
 // TestDecodeUndoesEncode changes bytes below a sum that is right: what comes
 // out is no update, or just the one that these bytes are.
 func TestDecodeUndoesEncode(t *testing.T) {
