@@ -36,3 +36,32 @@ func TestSumChangesNothing(t *testing.T) {
 		t.Errorf("P2: the bytes are %q now", b)
 	}
 }
+
+func TestSeal(t *testing.T) {
+	if got := Seal([]byte("123456789")); string(got) != "123456789\xcb\xf4\x39\x26" {
+		t.Errorf("P3: Seal(123456789) = %x", got)
+	}
+	for _, s := range []string{"", "a", "\x00\x00\x00\x00", strings.Repeat("braid", 1000)} {
+		if got, ok := Unseal(string(Seal([]byte(s)))); got != s || !ok {
+			t.Errorf("P7: %.20q, sealed and unsealed: %.20q, %v", s, got, ok)
+		}
+	}
+}
+
+func TestUnsealOfOtherBytes(t *testing.T) {
+	sealed := string(Seal([]byte("braid")))
+	for at := range sealed {
+		for by := 1; by < 256; by++ {
+			b := []byte(sealed)
+			b[at] += byte(by)
+			if got, ok := Unseal(string(b)); got != "" || ok {
+				t.Errorf("P7: byte %d turned by %d: %q, %v", at, by, got, ok)
+			}
+		}
+	}
+	for n := range sealed {
+		if got, ok := Unseal(sealed[:n]); got != "" || ok {
+			t.Errorf("P7: the first %d bytes: %q, %v", n, got, ok)
+		}
+	}
+}

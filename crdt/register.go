@@ -1,13 +1,16 @@
 package crdt
 
-import "braid/api"
+import (
+	"braid/api"
+	"braid/causes"
+)
 
 // written has the texts of those writes that no other one is behind.
 func written(l []api.Update) []string {
 	second := secondBest(l)
 	var texts []string
 	for _, u := range l {
-		if !second.has(u) {
+		if !second.Has(causes.Id(u)) {
 			texts = append(texts, u.Op.Text)
 		}
 	}
@@ -17,8 +20,8 @@ func written(l []api.Update) []string {
 // secondBest has, for each replica, the second greatest of the numbers that
 // the clocks have there. An update's own clock reaches it; so this second
 // number reaches it just if another clock does.
-func secondBest(l []api.Update) reach {
-	var best, second reach
+func secondBest(l []api.Update) causes.Reach {
+	var best, second causes.Reach
 	for _, u := range l {
 		for i, n := range u.Clock {
 			second[i] = max(second[i], min(best[i], n))

@@ -1,18 +1,18 @@
 package crdt
 
 import (
-	"cmp"
 	"slices"
 	"strings"
 
 	"braid/api"
+	"braid/causes"
 )
 
 // insert: one of a sequence, and what its place hangs on.
 type insert struct {
-	id, anchor api.Id
-	age        int
-	text       string
+	rank   causes.Rank
+	anchor api.Id
+	text   string
 }
 
 // row is the value of a sequence.
@@ -37,17 +37,9 @@ func insertsAndDeletes(l []api.Update) (map[api.Id]insert, map[api.Id]struct{}) 
 			deleted[u.Op.Anchor] = struct{}{}
 			continue
 		}
-		inserts[idOf(u)] = insert{idOf(u), u.Op.Anchor, ageOf(u), u.Op.Text}
+		inserts[causes.Id(u)] = insert{causes.RankOf(u), u.Op.Anchor, u.Op.Text}
 	}
 	return inserts, deleted
-}
-
-func ageOf(u api.Update) int {
-	sum := 0
-	for _, n := range u.Clock {
-		sum += n
-	}
-	return sum
 }
 
 // chain has the tree as a ring: for each insert the one that stands next, from
@@ -58,27 +50,25 @@ func chain(inserts map[api.Id]insert) map[api.Id]api.Id {
 	next := map[api.Id]api.Id{}
 	for _, x := range byAge(inserts) {
 		on := hangsOn(x, inserts)
-		next[x.id] = next[on]
-		next[on] = x.id
+		next[x.rank.Id] = next[on]
+		next[on] = x.rank.Id
 	}
 	return next
 }
 
-// byAge has the least first, as an order of ages, Origins and Seqs.
+// byAge has the least first.
 func byAge(inserts map[api.Id]insert) []insert {
 	var l []insert
 	for _, x := range inserts {
 		l = append(l, x)
 	}
-	slices.SortFunc(l, func(a, b insert) int {
-		return cmp.Or(cmp.Compare(a.age, b.age), cmp.Compare(a.id.Origin, b.id.Origin), cmp.Compare(a.id.Seq, b.id.Seq))
-	})
+	slices.SortFunc(l, func(a, b insert) int { return a.rank.Compare(b.rank) })
 	return l
 }
 
 // hangsOn is the id of the insert on which x hangs, or {0 0}: the root.
 func hangsOn(x insert, inserts map[api.Id]insert) api.Id {
-	if on, ok := inserts[x.anchor]; ok && on.age < x.age {
+	if on, ok := inserts[x.anchor]; ok && on.rank.Age < x.rank.Age {
 		return x.anchor
 	}
 	return api.Id{}

@@ -1,6 +1,9 @@
 package crdt
 
-import "braid/api"
+import (
+	"braid/api"
+	"braid/causes"
+)
 
 // added has the texts of those adds that no remove of the same text and no
 // clear is behind.
@@ -8,7 +11,7 @@ func added(l []api.Update) []string {
 	removed, cleared := takenAway(l)
 	var texts []string
 	for _, u := range l {
-		if u.Op.Kind == api.Add && !cleared.has(u) && !removed[u.Op.Text].has(u) {
+		if u.Op.Kind == api.Add && !cleared.Has(causes.Id(u)) && !removed[u.Op.Text].Has(causes.Id(u)) {
 			texts = append(texts, u.Op.Text)
 		}
 	}
@@ -16,15 +19,15 @@ func added(l []api.Update) []string {
 }
 
 // takenAway has what the removes of each text knew, and what the clears did.
-func takenAway(l []api.Update) (map[string]reach, reach) {
-	removed := map[string]reach{}
-	var cleared reach
+func takenAway(l []api.Update) (map[string]causes.Reach, causes.Reach) {
+	removed := map[string]causes.Reach{}
+	var cleared causes.Reach
 	for _, u := range l {
 		switch u.Op.Kind {
 		case api.Remove:
-			removed[u.Op.Text] = removed[u.Op.Text].with(u.Clock)
+			removed[u.Op.Text] = removed[u.Op.Text].With(u.Clock)
 		case api.Clear:
-			cleared = cleared.with(u.Clock)
+			cleared = cleared.With(u.Clock)
 		}
 	}
 	return removed, cleared

@@ -5,6 +5,7 @@ import (
 	"braid/api"
 	"braid/check"
 	"braid/crc"
+	"braid/octets"
 )
 
 // Encode is an update's bytes (P3).
@@ -12,8 +13,7 @@ func Encode(u api.Update) (string, api.Errno) {
 	if !check.Update(u) {
 		return "", api.ErrOp
 	}
-	b := appendUpdate(nil, u)
-	return string(appendSum(b, crc.Sum(b))), api.OK
+	return string(crc.Seal(layUpdate(u))), api.OK
 }
 
 // Decode is the update of bytes (P3).
@@ -28,29 +28,34 @@ func Decode(s string) (api.Update, api.Errno) {
 	return u, api.OK
 }
 
-// appendUpdate takes what was checked before: every number fits its bytes.
-func appendUpdate(b []byte, u api.Update) []byte {
-	b = append(b, byte(len(u.Clock)))
+// layUpdate takes what was checked before: every number fits its bytes.
+func layUpdate(u api.Update) []byte {
+	b := []byte{byte(len(u.Clock))}
 	for _, n := range u.Clock {
-		b = appendPair(b, n)
+		b = octets.AppendPair(b, n)
 	}
 	b = append(b, byte(u.Origin), u.Op.Type, u.Op.Kind)
-	b = appendText(b, u.Op.Name)
-	b = appendText(b, u.Op.Text)
-	b = appendPair(b, u.Op.Amount+api.MaxAmount)
+	b = octets.AppendText(b, u.Op.Name)
+	b = octets.AppendText(b, u.Op.Text)
+	b = octets.AppendPair(b, u.Op.Amount+api.MaxAmount)
 	b = append(b, byte(u.Op.Anchor.Origin))
-	return appendPair(b, u.Op.Anchor.Seq)
+	return octets.AppendPair(b, u.Op.Anchor.Seq)
 }
 
-func appendText(b []byte, s string) []byte {
-	b = append(b, byte(len(s)))
-	return append(b, s...)
-}
-
-func appendPair(b []byte, n int) []byte {
-	return append(b, byte(n>>8), byte(n))
-}
-
-func appendSum(b []byte, sum uint32) []byte {
-	return append(b, byte(sum>>24), byte(sum>>16), byte(sum>>8), byte(sum))
+// readUpdate takes any bytes for an update's; it need not be one.
+func readUpdate(s string) api.Update {
+	r := octets.Reader{Rest: s}
+	var u api.Update
+	for range r.Single() {
+		u.Clock = append(u.Clock, r.Pair())
+	}
+	u.Origin = r.Single()
+	u.Op.Type = uint8(r.Single())
+	u.Op.Kind = uint8(r.Single())
+	u.Op.Name = r.Text()
+	u.Op.Text = r.Text()
+	u.Op.Amount = r.Pair() - api.MaxAmount
+	u.Op.Anchor.Origin = r.Single()
+	u.Op.Anchor.Seq = r.Pair()
+	return u
 }

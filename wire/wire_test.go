@@ -237,28 +237,6 @@ func TestDecodeOfTextsThatEnd(t *testing.T) {
 	}
 }
 
-func TestReaderAtTheEnd(t *testing.T) {
-	for _, c := range []struct{ s, text, rest string }{
-		{"", "", ""},
-		{"\x00", "", ""},
-		{"\x00ab", "", "ab"},
-		{"\x01", "", ""},
-		{"\xff", "", ""},
-		{"\x01a", "a", ""},
-		{"\x02a", "a", ""},
-		{"\x05ab", "ab", ""},
-		{"\x01ab", "a", "b"},
-	} {
-		r := reader{c.s}
-		if text := r.text(); text != c.text {
-			t.Errorf("P1: the text of %q is %q", c.s, text)
-		}
-		if r.rest != c.rest {
-			t.Errorf("P1: behind the text of %q is %q", c.s, r.rest)
-		}
-	}
-}
-
 // TestDecodeUndoesEncode changes bytes below a sum that is right: what comes
 // out is no update, or just the one that these bytes are.
 func TestDecodeUndoesEncode(t *testing.T) {
