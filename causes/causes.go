@@ -41,6 +41,9 @@ func (a Rank) Compare(b Rank) int {
 // stands for many clocks, so that an update is not held against each of them.
 type Reach [api.MaxReplicas]int
 
+// ReachOf is what an update knew of, itself among it.
+func ReachOf(u api.Update) Reach { return Reach{}.With(u.Clock) }
+
 // With is what is known in r or by this clock.
 func (r Reach) With(clock []int) Reach {
 	for i, n := range clock {

@@ -66,6 +66,17 @@ func TestReach(t *testing.T) {
 	}
 }
 
+func TestReachOf(t *testing.T) {
+	for _, c := range []struct {
+		clock []int
+		want  Reach
+	}{{[]int{1, 0}, Reach{1}}, {[]int{2, 0, 7}, Reach{2, 0, 7}}, {[]int{1, 2, 3, 4, 5, 6, 7, 1000}, Reach{1, 2, 3, 4, 5, 6, 7, 1000}}} {
+		if got := ReachOf(api.Update{Clock: c.clock}); got != c.want {
+			t.Errorf("Words: the clock %v knows %v", c.clock, got)
+		}
+	}
+}
+
 func TestIsNext(t *testing.T) {
 	r := Reach{2, 5, 0}
 	for _, c := range []struct {

@@ -34,7 +34,8 @@ func Pack(known map[int]causes.Reach, l []api.Update) string {
 }
 
 // Open is the frame of bytes that Pack made for so many replicas. False: the
-// bytes are no longer those.
+// bytes are no longer those. Where many of them were turned, the sum can fit all
+// the same: so what a frame tells need not be true, nor what anybody sent.
 func Open(replicas int, s string) (Frame, bool) {
 	inner, ok := crc.Unseal(s)
 	if !ok {
@@ -56,20 +57,21 @@ func readRow(r *octets.Reader, replicas int) causes.Reach {
 	return row
 }
 
-// Updates has the updates of the frame, in their order. It is to be received
-// from until it is closed: only then has the one that sends ended.
+// Updates has the updates of the frame, in their order, up to the first bytes
+// that are none of so many replicas. It is to be received from until it is
+// closed: only then has the one that sends ended.
 func (f Frame) Updates() <-chan api.Update {
 	out := make(chan api.Update)
-	go send(f.updates, out)
+	go send(f.updates, len(f.Known), out)
 	return out
 }
 
-func send(updates string, out chan<- api.Update) {
+func send(updates string, replicas int, out chan<- api.Update) {
 	defer close(out)
 	r := octets.Reader{Rest: updates}
 	for r.Rest != "" {
 		u, e := wire.Decode(r.Text())
-		if e != api.OK {
+		if e != api.OK || len(u.Clock) != replicas {
 			return
 		}
 		out <- u

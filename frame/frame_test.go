@@ -3,6 +3,7 @@ package frame
 import (
 	"reflect"
 	"runtime"
+	"slices"
 	"strings"
 	"testing"
 	"time"
@@ -96,6 +97,27 @@ func TestWrongInside(t *testing.T) {
 	none := octets.AppendText(octets.AppendText([]byte(rows), "none"), good)
 	if f, ok := Open(3, string(crc.Seal(none))); !ok || len(received(f)) != 0 {
 		t.Errorf("P1: no update, and one behind it: %+v, %v", f, ok)
+	}
+}
+
+// Updates of a mesh that has more replicas, or fewer, are none of this one, and
+// what stands behind them is not taken for any, either.
+func TestOtherClocks(t *testing.T) {
+	rows := strings.Repeat("\x00", 18)
+	good, _ := wire.Encode(updates[0])
+	for _, clock := range [][]int{{1, 0}, {1, 0, 0, 0}, {1, 0, 0, 0, 0, 0, 0, 0}, {0, 0, 0, 1}} {
+		u := api.Update{Origin: len(clock) - 1, Clock: slices.Clone(clock), Op: updates[0].Op}
+		u.Clock[u.Origin] = 1
+		other, e := wire.Encode(u)
+		if e != api.OK {
+			t.Fatalf("P3: Encode(%+v): %d", u, e)
+		}
+		b := octets.AppendText([]byte(rows), good)
+		b = octets.AppendText(octets.AppendText(b, other), good)
+		f, ok := Open(3, string(crc.Seal(b)))
+		if l := received(f); !ok || !reflect.DeepEqual(l, updates[:1]) {
+			t.Errorf("P1: the clock %v among those of three: %+v, %v", clock, l, ok)
+		}
 	}
 }
 

@@ -14,7 +14,7 @@ import (
 // in, and nothing has to wait for a frame that was lost.
 type replica struct {
 	self    int
-	known   map[int]causes.Reach // what each replica surely has; the own row: just what it has
+	known   map[int]causes.Reach // what each replica surely has, within the own row: just what this one has
 	things  *things.Things
 	log     []api.Update // those that are not known to be everywhere, in the order in which they came
 	applied []api.Id
@@ -88,14 +88,16 @@ func (r *replica) frameTo(other int) string {
 	return frame.Pack(r.known, lacks)
 }
 
-// receive takes a frame in; one that was spoiled is as good as lost.
+// receive takes a frame in; one that was spoiled is as good as lost. One that
+// was spoiled so much that its sum fits again is not known from another: so of
+// every frame only what agrees with what the replica itself has is believed.
 func (r *replica) receive(bytes string) {
 	f, ok := frame.Open(len(r.known), bytes)
 	if !ok {
 		return
 	}
 	for u := range f.Updates() {
-		if r.known[r.self].IsNext(u) {
+		if r.canTake(u) {
 			r.get(u)
 		}
 	}
@@ -103,9 +105,20 @@ func (r *replica) receive(bytes string) {
 	r.fold()
 }
 
+// canTake tells whether an update that came can be the next one of its origin.
+// Nobody can bring one of the replica's own that it has not made, and nobody can
+// have made one that hangs on what it did not know of.
+func (r *replica) canTake(u api.Update) bool {
+	return u.Origin != r.self && r.known[r.self].IsNext(u) && causes.ReachOf(u).Has(u.Op.Anchor)
+}
+
+// learn takes in what others are said to have. A frame brings all that those of
+// whom it tells have: what this replica lacks even now, nobody was known to have.
 func (r *replica) learn(told map[int]causes.Reach) {
+	own := r.known[r.self]
 	for i, row := range told {
-		r.known[i] = r.known[i].With(row[:])
+		sure := row.Within(own)
+		r.known[i] = r.known[i].With(sure[:])
 	}
 }
 

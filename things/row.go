@@ -25,11 +25,24 @@ func (r row) take(u api.Update) {
 		return
 	}
 	x := insert{rank: causes.RankOf(u), text: u.Op.Text, shown: true}
-	r.putBehind(r.neighbour(u.Op.Anchor, x.rank), x)
+	r.putBehind(r.neighbour(r.hangsOn(u.Op.Anchor, x.rank), x.rank), x)
 }
 
+// hangsOn is the insert on which one of this rank hangs, or {0 0}: the front.
+func (r row) hangsOn(anchor api.Id, rank causes.Rank) api.Id {
+	if on, ok := r[anchor]; ok && on.rank.Age < rank.Age {
+		return anchor
+	}
+	return api.Id{}
+}
+
+// hide leaves an id alone that is none of the row: an entry for it would stand
+// in no ring.
 func (r row) hide(id api.Id) {
-	x := r[id]
+	x, ok := r[id]
+	if !ok {
+		return
+	}
 	x.text = ""
 	x.shown = false
 	r[id] = x

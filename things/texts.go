@@ -17,8 +17,9 @@ type texts map[string][]api.Id
 // older adds of its text, too: who knows of it knows of them, so they would
 // never show longer than it does.
 func (t texts) take(u api.Update) {
+	knew := causes.ReachOf(u)
 	for _, text := range t.touched(u.Op) {
-		t.drop(text, u.Clock)
+		t.drop(text, knew)
 	}
 	if u.Op.Type == api.Register || u.Op.Kind == api.Add {
 		t[u.Op.Text] = append(t[u.Op.Text], causes.Id(u))
@@ -33,8 +34,8 @@ func (t texts) touched(op api.Op) []string {
 	return []string{op.Text}
 }
 
-func (t texts) drop(text string, clock []int) {
-	left := slices.DeleteFunc(t[text], func(id api.Id) bool { return clock[id.Origin] >= id.Seq })
+func (t texts) drop(text string, knew causes.Reach) {
+	left := slices.DeleteFunc(t[text], knew.Has)
 	if len(left) == 0 {
 		delete(t, text)
 		return

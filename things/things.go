@@ -1,9 +1,9 @@
 // Package things: what a replica shows of the things that it has: see DOC.md
 // (What updates come to).
 //
-// The updates come one by one, each once and behind all that it knew of. So one
-// that comes is never known of by those that came before it, and of these only
-// what shows, or what others hang on, need be kept.
+// The updates come one by one, each once and behind all that it knew of, its
+// anchor among them. So one that comes is never known of by those that came
+// before it, and of these only what shows, or what others hang on, need be kept.
 package things
 
 import "braid/api"

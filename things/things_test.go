@@ -66,6 +66,11 @@ func TestExamples(t *testing.T) {
 		{"the document's sequence", api.Sequence, []api.Update{at(0, put("a", 0, 0), 1, 0), at(0, put("b", 0, 1), 2, 0), at(1, put("c", 0, 1), 2, 1)}, api.Value{Texts: []string{"a", "c", "b"}, Ids: []api.Id{{Origin: 0, Seq: 1}, {Origin: 1, Seq: 1}, {Origin: 0, Seq: 2}}}},
 		{"the document's sequence, further", api.Sequence, []api.Update{at(0, put("a", 0, 0), 1, 0), at(0, put("b", 0, 1), 2, 0), at(1, put("c", 0, 1), 2, 1), at(0, remove(0, 1), 3, 0)}, api.Value{Texts: []string{"c", "b"}, Ids: []api.Id{{Origin: 1, Seq: 1}, {Origin: 0, Seq: 2}}}},
 		{"one that hangs on what was deleted", api.Sequence, []api.Update{at(0, put("a", 0, 0), 1, 0), at(0, remove(0, 1), 2, 0), at(1, put("b", 0, 1), 1, 1), at(0, put("c", 0, 0), 3, 0)}, api.Value{Texts: []string{"c", "b"}, Ids: []api.Id{{Origin: 0, Seq: 3}, {Origin: 1, Seq: 1}}}},
+		{"an anchor that is not there", api.Sequence, []api.Update{at(0, put("a", 0, 0), 1, 0), at(0, put("b", 1, 3), 2, 0), at(0, put("c", 7, 1000), 3, 0)}, api.Value{Texts: []string{"c", "b", "a"}, Ids: []api.Id{{Origin: 0, Seq: 3}, {Origin: 0, Seq: 2}, {Origin: 0, Seq: 1}}}},
+		{"an anchor that is no insert", api.Sequence, []api.Update{at(0, count(1), 1, 0), at(0, put("a", 0, 0), 2, 0), at(0, put("b", 0, 1), 3, 0), at(0, put("c", 0, 3), 4, 0)}, api.Value{Texts: []string{"b", "c", "a"}, Ids: []api.Id{{Origin: 0, Seq: 3}, {Origin: 0, Seq: 4}, {Origin: 0, Seq: 2}}}},
+		{"its own anchor", api.Sequence, []api.Update{at(0, put("a", 0, 1), 1, 0), at(0, put("b", 0, 1), 2, 0)}, api.Value{Texts: []string{"a", "b"}, Ids: []api.Id{{Origin: 0, Seq: 1}, {Origin: 0, Seq: 2}}}},
+		{"an anchor of the same age", api.Sequence, []api.Update{at(0, put("a", 0, 0), 1, 0, 0), at(1, put("b", 0, 0), 1, 1, 0), at(2, put("c", 1, 1), 0, 1, 1)}, api.Value{Texts: []string{"c", "b", "a"}, Ids: []api.Id{{Origin: 2, Seq: 1}, {Origin: 1, Seq: 1}, {Origin: 0, Seq: 1}}}},
+		{"deletes of what is no insert", api.Sequence, []api.Update{at(0, remove(0, 0), 1, 0), at(0, remove(0, 1), 2, 0), at(0, remove(0, 3), 3, 0), at(0, remove(1, 9), 4, 0), at(0, put("a", 0, 3), 5, 0), at(0, put("b", 1, 9), 6, 0)}, api.Value{Texts: []string{"b", "a"}, Ids: []api.Id{{Origin: 0, Seq: 6}, {Origin: 0, Seq: 5}}}},
 		{"one that comes late passes what hangs on its neighbour", api.Sequence, []api.Update{at(0, put("a", 0, 0), 1, 0), at(0, put("b", 0, 1), 2, 0), at(0, put("c", 0, 2), 3, 0), at(1, put("d", 0, 0), 0, 1), at(1, put("e", 1, 1), 0, 2)}, api.Value{Texts: []string{"d", "e", "a", "b", "c"}, Ids: []api.Id{{Origin: 1, Seq: 1}, {Origin: 1, Seq: 2}, {Origin: 0, Seq: 1}, {Origin: 0, Seq: 2}, {Origin: 0, Seq: 3}}}},
 	} {
 		if v := taken(c.l...).Value(c.kind, "x"); !reflect.DeepEqual(v, c.want) {
@@ -168,6 +173,71 @@ func TestAgainstAllUpdates(t *testing.T) {
 						}
 					}
 				}
+			}
+		}
+	}
+}
+
+// strange: updates as nobody would make them, but for this: each stands behind
+// all that it knew of, its anchor among them.
+func strange(r *rand.Rand, replicas, n int) []api.Update {
+	var l []api.Update
+	var has causes.Reach
+	for range n {
+		origin := r.Intn(replicas)
+		clock := make([]int, replicas)
+		for k := range clock {
+			clock[k] = r.Intn(has[k] + 1)
+		}
+		has[origin]++
+		clock[origin] = has[origin]
+		k := r.Intn(replicas)
+		seq := r.Intn(clock[k] + 1)
+		if seq == 0 {
+			k = 0
+		}
+		op := []api.Op{write("a"), write("b"), count(3), put("c", k, seq), put("d", k, seq), remove(k, seq), set(api.Add, "a")}[r.Intn(7)]
+		l = append(l, at(origin, op, clock...))
+	}
+	return l
+}
+
+func TestStrangeUpdates(t *testing.T) {
+	r := rand.New(rand.NewSource(14))
+	for round := range 200 {
+		l := strange(r, 2+r.Intn(7), 60)
+		l = mixed(r, l)
+		things := New()
+		for n, u := range l {
+			things.Take(u)
+			for _, kind := range []uint8{api.Register, api.Counter, api.Sequence} {
+				want, e := crdt.Value(kind, "x", l[:n+1])
+				if v := things.Value(kind, "x"); e != api.OK || !reflect.DeepEqual(v, want) {
+					t.Fatalf("P1, P10: round %d: type %d of %+v: %+v, want %+v, %d", round, kind, l[:n+1], v, want, e)
+				}
+			}
+		}
+	}
+}
+
+// Whatever clocks and anchors the updates have, if each comes once, taking them
+// in ends.
+func TestAnyUpdates(t *testing.T) {
+	r := rand.New(rand.NewSource(15))
+	for range 300 {
+		things := New()
+		for _, n := range r.Perm(60) {
+			clock := make([]int, 2+r.Intn(7))
+			for k := range clock {
+				clock[k] = r.Intn(70)
+			}
+			origin := r.Intn(len(clock))
+			clock[origin] = 1 + n
+			k, seq := r.Intn(8), 1+r.Intn(60)
+			ops := []api.Op{set(api.Add, "a"), set(api.Remove, "a"), set(api.Clear, ""), write("a"), count(1), put("c", k, seq), remove(k, seq)}
+			things.Take(at(origin, ops[r.Intn(len(ops))], clock...))
+			for kind := range uint8(4) {
+				things.Value(kind, "x")
 			}
 		}
 	}
