@@ -7,6 +7,7 @@ import (
 	"testing"
 
 	"braid/api"
+	"braid/causes"
 	"braid/crdt"
 )
 
@@ -23,10 +24,14 @@ type walk struct {
 
 func newWalk(t *testing.T, seed int64) *walk {
 	r := rand.New(rand.NewSource(seed))
-	w := &walk{t: t, r: r, replicas: 2 + r.Intn(7), window: 1 + r.Intn(8), made: map[api.Id]api.Update{}}
-	w.m = made(t, w.replicas, w.window)
-	w.had = make([][]api.Id, w.replicas)
-	return w
+	return newWalkOf(t, r, 2+r.Intn(7), 1+r.Intn(8))
+}
+
+func newWalkOf(t *testing.T, r *rand.Rand, replicas, window int) *walk {
+	return &walk{
+		t: t, r: r, m: made(t, replicas, window), replicas: replicas, window: window,
+		made: map[api.Id]api.Update{}, had: make([][]api.Id, replicas),
+	}
 }
 
 // numbers: how many there are of each origin.
@@ -111,6 +116,7 @@ func (w *walk) look(values bool) {
 	}
 	for r := range w.replicas {
 		w.lookAtNumbers(r, lists)
+		w.lookAtKnown(r, lists)
 		if values {
 			w.lookAtValues(r, lists[r])
 		}
@@ -163,6 +169,18 @@ func (w *walk) lookAtNumbers(replica int, lists [][]api.Id) {
 	}
 	if n, e := w.m.Logged(replica); e != api.OK || n < all || n > len(lists[replica]) {
 		w.t.Fatalf("P8: Logged(%d) = %d, %d; %d are not everywhere", replica, n, e, all)
+	}
+}
+
+// lookAtKnown: nobody is taken to have what it, or the replica itself, has not.
+func (w *walk) lookAtKnown(replica int, lists [][]api.Id) {
+	w.t.Helper()
+	known := w.m.replicas[replica].known
+	for i, row := range known {
+		has := causes.Reach{}.With(numbers(lists[i], w.replicas))
+		if row != row.Within(has) || row != row.Within(known[replica]) || i == replica && row != has {
+			w.t.Fatalf("P8: replica %d, with %v, knows of %d %v; it has %v", replica, known[replica], i, row, has)
+		}
 	}
 }
 
